@@ -426,8 +426,13 @@ func TestTotal(t *testing.T) {
 		t.Error(e)
 	}
 	wide := desk(t, numbers(9000, 9000))
-	if _, e := cmd.Total(wide, "P", x("1"), []string{"A"}, api.Scope{}); e != api.ErrFit {
+	before := wide.Copy()
+	if got, e := cmd.Total(wide, "P", x("1"), []string{"A"}, api.Scope{}); e != api.ErrFit || len(got.Fields) > 0 || !area.Same(before, wide) {
 		t.Error("too wide", e)
+	}
+	before = d.Copy()
+	if _, e := cmd.Total(d, "P", x("1 / (a - 2)"), nil, api.Scope{}); e != api.ErrType || !area.Same(before, d) {
+		t.Error("a key that dies", e)
 	}
 }
 

@@ -210,34 +210,55 @@ func Total(d *area.Desk, alias string, key api.Expr, names []string, s api.Scope
 			return api.Table{}, api.ErrType
 		}
 	}
-	var last api.Value
 	var taken []api.Record
-	_, e = visit(d, alias, usually(s, all()), func(k int) api.Errno {
+	// The sums are known when all records have been visited, and may still be refused then.
+	e = undoing(d, func() api.Errno {
+		l, e := rowsOf(d, alias, key, at, s)
+		if e != api.OK {
+			return e
+		}
+		taken = l
+		return fitting(t, l, at)
+	})
+	if e != api.OK {
+		return api.Table{}, e
+	}
+	return selected(t, everyField(t), taken), api.OK
+}
+
+// rowsOf visits a scope and returns a record for each row of records with equal keys, in whose fields are the sums.
+func rowsOf(d *area.Desk, alias string, key api.Expr, at []int, s api.Scope) ([]api.Record, api.Errno) {
+	t := tableOf(d, alias)
+	var last api.Value
+	var out []api.Record
+	_, e := visit(d, alias, usually(s, all()), func(k int) api.Errno {
 		v, e := values(d, alias, []api.Expr{key})
 		if e != api.OK {
 			return e
 		}
 		r := t.Recs[k-1]
 		r.Gone = false
-		if len(taken) == 0 || v[0] != last {
-			taken = append(taken, r)
+		if len(out) == 0 || v[0] != last {
+			out = append(out, r)
 		} else {
-			addFields(taken[len(taken)-1], r, at)
+			addFields(out[len(out)-1], r, at)
 		}
 		last = v[0]
 		return api.OK
 	})
-	if e != api.OK {
-		return api.Table{}, e
-	}
-	for _, r := range taken {
+	return out, e
+}
+
+// fitting returns ErrFit if a sum is too wide for its field.
+func fitting(t api.Table, l []api.Record, at []int) api.Errno {
+	for _, r := range l {
 		for _, i := range at {
 			if _, e := table.Fit(t.Fields[i], t.Page, r.V[i]); e != api.OK {
-				return api.Table{}, api.ErrFit
+				return api.ErrFit
 			}
 		}
 	}
-	return selected(t, everyField(t), taken), api.OK
+	return api.OK
 }
 
 // addFields adds fields of a record to those of another one.
