@@ -262,8 +262,11 @@ func (p *parser) item() item {
 		p.needSign(")")
 		i.kind = countAll
 	} else {
+		begin := p.at
 		i.x = p.expr()
-		if i.x.Op == api.XCall && len(i.x.L) == 1 && slices.Contains([]string{countItem, sumItem, minItem, maxItem}, i.x.S) {
+		// In parentheses it is a call like others.
+		isCall := p.l[begin].Kind == api.KWord && i.x.Op == api.XCall && len(i.x.L) == 1
+		if isCall && slices.Contains([]string{countItem, sumItem, minItem, maxItem}, i.x.S) {
 			i.kind, i.x = i.x.S, i.x.L[0]
 		}
 	}

@@ -80,6 +80,7 @@ func bags(t *testing.T, tabs []api.Table) []*bag.Bag {
 // P25.1
 func TestQueries(t *testing.T) {
 	for s, want := range map[string]string{
+		"select sum((n)), (max(1, 2)) as m from e":                                        "EXP1,M: NIL,NIL",
 		"select count(*), sum(n) from e":                                                  "EXP1,EXP2: 0,NIL",
 		"select a->n, b->n from p a, p b where a->n < b->n":                               "N,N: 3,5 3,5",
 		"select n from p union select n from p":                                           "N: 5 3 NIL",
@@ -155,7 +156,7 @@ func TestQueryErrors(t *testing.T) {
 	}{
 		{"select", api.ErrSyntax}, {"insert into p (n) values (1)", api.ErrSyntax}, {"select x from z", api.ErrNone}, {"select x from p union select n from z", api.ErrNone}, {"select x from p a, p a", api.ErrTwice}, {"select x from p", api.ErrNone}, {"select q->n from p", api.ErrNone}, {"select p->n from p a", api.ErrNone}, {"select p->x from p", api.ErrNone},
 		{"select n, x from p a, p b", api.ErrRule}, {"select x, n from p a, p b", api.ErrNone}, {"select x from p a, p b where n = 1", api.ErrRule}, {"select n from p a, p b group by x", api.ErrNone}, {"select n from p having x = 1", api.ErrNone}, {"select x from p having n = 1", api.ErrNone}, {"select n, q from p, o", api.ErrNone}, {"select n from p, o", api.ErrFit}, {"select name + 1 from p, o", api.ErrFit},
-		{"select x from b a, b b", api.ErrLarge}, {"select x from b a, b b, e", api.ErrNone}, {"select n from p where name > 1", api.ErrType}, {"select name + 1 from p", api.ErrType}, {"select n from p group by name + 1", api.ErrType}, {"select n from p having n / 0 = 1", api.ErrType}, {"select sum(name) from p", api.ErrType}, {"select sum(n + name) from p", api.ErrType},
+		{"select x from b a, b b", api.ErrLarge}, {"select x from b a, b b, e", api.ErrNone}, {"select n from p where name > 1", api.ErrType}, {"select name + 1 from p", api.ErrType}, {"select n from p group by name + 1", api.ErrType}, {"select n from p having n / 0 = 1", api.ErrType}, {"select sum(name) from p", api.ErrType}, {"select sum(n + name) from p", api.ErrType}, {"select (sum(n)) from p", api.ErrType}, {"select (max(n)) from p", api.ErrType}, {"select sum(n) + 1 from p", api.ErrType},
 		{"select min(if(city = 1, n, name)) from p", api.ErrType}, {"select sum(999999999999999) from p", api.ErrLarge}, {"select sum(999999999999999), name + 1 from p", api.ErrLarge}, {"select name + 1, sum(999999999999999) from p", api.ErrType}, {"select n, city from p union select n from p", api.ErrFit}, {"select n from p union select name + 1 from p", api.ErrType}, {"select n from p union select name from p order by 1", api.ErrType}, {"select n from p order by x", api.ErrNone}, {"select n from p order by 2", api.ErrNone}, {"select n from p order by 0", api.ErrNone},
 		{"select name from b a, c where id < 3", api.OK}, {"select name from b a, c", api.ErrLarge}, {"select distinct name from b a, c", api.OK}, {"select a->(n + 1) from p a", api.ErrType}, {"select {1} from p", api.ErrType}, {"select n from p where {|x| x} = 1", api.ErrType}, {"select n from p where &m", api.ErrType},
 	} {
