@@ -113,6 +113,40 @@ func TestNewAndOpen(t *testing.T) {
 	ok(t, d.Order("E", ""))
 }
 
+// An alias is a name of chapter 6, which may begin with _; the name of a table is one of a field, which may not.
+func TestAliasIsAName(t *testing.T) {
+	if _, e := area.New([]string{"_"}, []api.Table{people()}); e != api.ErrArg {
+		t.Error("New", e)
+	}
+	d := desk(t, map[string]api.Table{"P": people("a", 5), "Q": people("b", 7, "c", 8)})
+	for _, c := range []struct {
+		tab, alias string
+		e          api.Errno
+	}{
+		{"", "_", api.ErrNone}, {"_", "_", api.ErrNone}, {"P", "_", api.OK}, {"Q", "_0", api.OK}, {"Q", "_", api.ErrTwice}, {"P", "_ABCDEFGH9", api.OK},
+		{"P", "_ABCDEFGHIJ", api.ErrArg}, {"P", "", api.ErrArg}, {"P", "0", api.ErrArg}, {"P", "_a", api.ErrArg}, {"P", "A ", api.ErrArg}, {"P", "_.", api.ErrArg},
+	} {
+		if e := d.Open(c.tab, c.alias); e != c.e {
+			t.Errorf("Open %q %q: %d, not %d", c.tab, c.alias, e, c.e)
+		}
+	}
+	if l := d.Aliases(); !slices.Equal(l, []string{"_", "_0", "_ABCDEFGH9"}) {
+		t.Error(l)
+	}
+	ok(t, d.Relate("_", "age - 3", "_0"))
+	at(t, d, "_0", 2, false, false)
+	if v, why, e := d.Eval("_", "_0->age + _->age"); v != num(13) || why != 0 || e != api.OK {
+		t.Error("Eval", v, why, e)
+	}
+	if _, why, e := d.Eval("_", "_0->age + _1"); why != api.DieName || e != api.OK {
+		t.Error("Eval of a name that there is not", why, e)
+	}
+	ok(t, d.Close("_0"))
+	if _, why, e := d.Eval("_", "_0->age"); why != api.DieName || e != api.OK {
+		t.Error("Eval behind Close", why, e)
+	}
+}
+
 func TestErrNoneFirst(t *testing.T) {
 	for i, c := range []struct {
 		d *area.Desk

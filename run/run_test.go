@@ -203,6 +203,7 @@ func TestWorkAreas(t *testing.T) {
 		{"use p / ? dbvalue('AGE') / ? dbvalue('age')", "10/died 4"}, {"? dbvalue('X')", "died 4"}, {"use p / ? dbvalue(1)", "died 1"},
 		{"use p / ? f->age", "died 4"}, {"use p alias a / ? a->(f()) / ? alias() / function f / use q / return alias()", "Q/A"}, {"use p alias a / use q / ? a->(f()), alias() / function f / use / return 1", "1 Q"}, {"use p alias a / ? a->(f()) / ? alias() / function f / use / return 1", "1/"},
 		{"use p alias a / use q / begin sequence / ? a->(1 % 0) / end / ? alias()", "Q"},
+		{"use p alias _ / use q alias _0 / ? alias(), _->name, _->(age + _0->age) / select _ / count to n for _0->x < _->age / ? n", "_0 bob 20/4"},
 		{"use p / ? upper(chr(233)) = chr(201) / use / ? upper(chr(233)) = chr(201)", ".T./.F."}, {"use p / local age := 3 / ? age, p->age", "3 3"},
 	})
 }
