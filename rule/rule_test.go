@@ -139,6 +139,30 @@ func TestAddErrors(t *testing.T) {
 	}
 }
 
+// The name of a check of a row is a name of chapter 6, which may begin with _; that of a table is one of a field, which may not.
+func TestNameOfRowCheck(t *testing.T) {
+	if _, e := rule.New([]string{"_"}, []api.Table{customers()}); e != api.ErrArg {
+		t.Error("New", e)
+	}
+	b := base(t, customers([2]int{1, 0}), orders())
+	for _, c := range []struct {
+		name, text string
+		e          api.Errno
+	}{
+		{"_", "", api.ErrSyntax}, {"_", "id", api.OK}, {"_A1", "id > 0", api.OK}, {"_ABCDEFGH9", "id < 9", api.OK}, {"_", "id > 5", api.ErrRule},
+		{"_ABCDEFGHIJ", "id", api.ErrArg}, {"_a", "id", api.ErrArg}, {"1A", "id", api.ErrArg}, {"", "", api.ErrArg}, {"_ ", "id", api.ErrArg},
+	} {
+		if e := b.Add(api.Rule{Kind: 1, Table: "C", Name: c.name, Text: c.text}); e != c.e {
+			t.Errorf("Add of a check %q %q: %d, not %d", c.name, c.text, e, c.e)
+		}
+	}
+	why(t, b, 3, "_")
+	if _, e := b.Update("C", 1, []string{"ID"}, []api.Value{num(0)}); e != api.ErrRule {
+		t.Error("Update", e)
+	}
+	why(t, b, 1, "_A1")
+}
+
 // P16.2
 func TestInsert(t *testing.T) {
 	b := base(t, customers(), orders(), api.Rule{Kind: 2, Table: "O", Name: "SUM", Text: "3 * 4"}, api.Rule{Kind: 2, Table: "O", Name: "MUST", Text: "1 / 0"}, api.Rule{Kind: 2, Table: "O", Name: "SHORT", Text: "99999"}, api.Rule{Kind: 2, Table: "C", Name: "BOSS", Text: "1 / 0"}, api.Rule{Table: "O", Name: "SUM", Text: "sum < 50"})
