@@ -43,6 +43,12 @@ var allTags = []api.Tag{
 	{Name: "MIX", Key: "if(age > 3, name, age)"}, {Name: "EX", Key: "name = 'a'"}, {Name: "PART", Key: "ok", For: "ok"}, {Name: "UNIQ", Key: "ok", Uniq: 1},
 }
 
+// moreTags have several tags of one key, those with other collations and directions first.
+var moreTags = []api.Tag{
+	{Name: "AGEC", Key: "age", Coll: 1, Down: true}, {Name: "NAMEC", Key: "name", Coll: 1}, {Name: "SOME", Key: "age", For: "ok"}, {Name: "AGED", Key: " age", Down: true},
+	{Name: "NAMED", Key: "NAME", Down: true}, {Name: "AGE", Key: "age"}, {Name: "NAME", Key: "name"}, {Name: "OK", Key: "ok", Coll: 1},
+}
+
 // P13.1
 func TestSlowAndFast(t *testing.T) {
 	r := rand.New(rand.NewSource(1))
@@ -113,6 +119,9 @@ func comparison(r *rand.Rand) string {
 
 func condition(r *rand.Rand, depth int) string {
 	if depth == 0 {
+		if r.Intn(12) == 0 {
+			return []string{"ok", "name", "age"}[r.Intn(3)]
+		}
 		return comparison(r)
 	}
 	switch r.Intn(6) {
@@ -146,7 +155,7 @@ func TestAnyCondition(t *testing.T) {
 	decided, undied := 0, 0
 	for seed := range 3000 {
 		r := rand.New(rand.NewSource(int64(seed)))
-		b := makeBag(t, r, r.Intn(12), allTags...)
+		b := makeBag(t, r, r.Intn(12), [][]api.Tag{allTags, moreTags}[seed%2]...)
 		cond, exact := condition(r, r.Intn(4)), r.Intn(2) == 0
 		want, died := trueAt(b, cond, exact)
 		l, why, e := fast.Fast(b, cond, exact)
@@ -187,13 +196,13 @@ func TestAnyCondition(t *testing.T) {
 
 // P13.2
 func TestDecided(t *testing.T) {
-	for seed := range 300 {
+	for seed := range 600 {
 		r := rand.New(rand.NewSource(int64(seed)))
-		b := makeBag(t, r, 10, allTags[0], allTags[1])
+		b := makeBag(t, r, 10, [][]api.Tag{allTags[:2], moreTags, moreTags[:5], {moreTags[0], moreTags[1], allTags[0], allTags[1]}}[seed%4]...)
 		pick := func(l ...string) string { return l[r.Intn(len(l))] }
 		part := func() string {
 			if r.Intn(2) == 0 {
-				return "age" + pick("=", "==", "<", "<=", ">", ">=") + pick("1", "3", "5", "'a'")
+				return pick("age"+pick("=", "==", "<", "<=", ">", ">=")+pick("1", "3", "5", "'a'"), pick("1", "3")+pick("=", "==", "<", ">=")+"age")
 			}
 			return pick("'ab'", "'b'", "'"+strings.Repeat("x", 40)+"'", "3") + pick("<", "<=", ">", ">=") + "name"
 		}
@@ -201,15 +210,36 @@ func TestDecided(t *testing.T) {
 		for range r.Intn(4) {
 			cond = "(" + cond + ")" + pick(".and.", ".or.") + part()
 		}
-		if _, died := trueAt(b, cond, false); died {
-			continue
-		}
 		for _, exact := range []bool{false, true} {
-			if p, _ := fast.Plan(b, cond, exact); !slices.Equal(p.Sure, p.May) {
-				t.Fatal(cond, p)
+			want, died := trueAt(b, cond, exact)
+			if died {
+				continue
+			}
+			p, e := fast.Plan(b, cond, exact)
+			n, e2 := fast.Asked(b, cond, exact)
+			if !slices.Equal(p.Sure, want) || !slices.Equal(p.May, want) || e != api.OK || n != 0 || e2 != api.OK {
+				t.Fatal(cond, p, want, n)
 			}
 		}
 	}
+}
+
+// P13.2: a tag that is a condition by itself tells all of it, too.
+func TestDecidedByKeys(t *testing.T) {
+	b := makeBag(t, rand.New(rand.NewSource(5)), 0, moreTags...)
+	for i, name := range []string{"a", "b", "c", "d"} {
+		b.Append(api.Record{V: []api.Value{text(name), num(i), {Kind: api.Truth, N: i % 2}}})
+	}
+	for cond, want := range map[string][]int{"ok": {2, 4}, "ok .and. age > 1": {4}, "age < 1 .or. ok": {1, 2, 4}, "age": nil} {
+		p, e := fast.Plan(b, cond, false)
+		n, _ := fast.Asked(b, cond, false)
+		if !slices.Equal(p.Sure, want) || !slices.Equal(p.May, want) || e != api.OK || n != 0 {
+			t.Error(cond, p, n)
+		}
+	}
+}
+
+func TestConstantsAndNoTags(t *testing.T) {
 	b := makeBag(t, rand.New(rand.NewSource(2)), 10)
 	for _, cond := range []string{".t.", ".f.", ".null.", "1 = 1", "'a' = 'ab'", "1 / 0", "5", "1 = 'a'"} {
 		if n, e := fast.Asked(b, cond, false); n != 0 || e != api.OK {

@@ -121,6 +121,9 @@ func (p *planner) plan(x api.Expr) []outcomes {
 	if x.Op == api.XBin && x.S == ".OR." {
 		return p.each(x.L, func(l []outcomes) outcomes { return not(and(not(l[0]), not(l[1]))) })
 	}
+	if l := p.servers[x.S]; x.Op == api.XName && len(l) > 0 {
+		return p.ofKey(l[0])
+	}
 	if s, ok := p.find(x); ok && (p.exact || !dependsOnExact(s.key)) {
 		return p.compare(s)
 	}
@@ -177,17 +180,35 @@ func (p *planner) evaluate(x api.Expr) (api.Value, bool) {
 
 func (p *planner) ofConstant(x api.Expr) outcomes {
 	v, ok := p.evaluate(x)
-	switch {
-	case !ok:
+	if !ok {
 		return dies
-	case v.Kind == api.Nil:
+	}
+	return ofValue(v)
+}
+
+// ofValue is what a value is as a condition.
+func ofValue(v api.Value) outcomes {
+	switch v {
+	case api.Value{}:
 		return isNil
-	case v == api.Value{Kind: api.Truth, N: 1}:
+	case api.Value{Kind: api.Truth, N: 1}:
 		return isTrue
-	case v == api.Value{Kind: api.Truth}:
+	case api.Value{Kind: api.Truth}:
 		return isFalse
 	}
 	return dies
+}
+
+// ofKey tells what the key of a tag is as a condition at each record.
+func (p *planner) ofKey(g api.Tag) []outcomes {
+	out := p.all(anything)
+	keys, recs, _ := p.bag.Entries(g.Name)
+	for i, k := range keys {
+		if v, e := key.Decode(k, g.Down); e == api.OK {
+			out[recs[i]-1] = ofValue(v)
+		}
+	}
+	return out
 }
 
 // dependsOnExact tells whether the value of an expression may depend on how texts are compared: tags compare them exactly.
@@ -233,7 +254,7 @@ func mirrored(op string) string {
 	return op
 }
 
-// compare tells what may come of a comparison that is served: the tag has the key of each record.
+// compare tells what may come of a comparison that is served: each of its tags has the key of each record.
 func (p *planner) compare(s served) []outcomes {
 	v, ok := p.evaluate(s.constant)
 	if !ok {
@@ -242,9 +263,16 @@ func (p *planner) compare(s served) []outcomes {
 	if v.Kind == api.Nil {
 		return p.all(isNil)
 	}
-	g := s.tags[0]
-	lo, hi, sure := p.between(s, g, v)
 	out := p.all(anything)
+	for _, g := range s.tags {
+		p.narrow(out, s, g, v)
+	}
+	return out
+}
+
+// narrow leaves what a tag, too, tells of a comparison with a value: one may know what another one does not.
+func (p *planner) narrow(out []outcomes, s served, g api.Tag, v api.Value) {
+	lo, hi, sure := p.between(s, g, v)
 	keys, recs, _ := p.bag.Entries(g.Name)
 	for i, k := range keys {
 		o := isFalse
@@ -259,9 +287,8 @@ func (p *planner) compare(s served) []outcomes {
 				o = isTrue | isFalse
 			}
 		}
-		out[recs[i]-1] = o
+		out[recs[i]-1] &= o
 	}
-	return out
 }
 
 // kindOf is the kind of the value of a key.
