@@ -14,10 +14,10 @@ import (
 // tablePage is the code page of the shop's tables.
 const tablePage = 1
 
-// fieldOf reads a field.
+// fieldOf reads a field. Whether its name is one of fields is not asked here.
 func fieldOf(s string) (api.Field, bool) {
 	name, kind, ok := strings.Cut(s, ":")
-	if !ok || kind == "" {
+	if !ok || name == "" || kind == "" {
 		return api.Field{}, false
 	}
 	f := api.Field{Name: name}

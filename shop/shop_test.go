@@ -101,8 +101,8 @@ func TestTable(t *testing.T) {
 	if l := s.Tags("T"); len(l) != 0 {
 		t.Error(l)
 	}
-	refused(t, s, api.ErrArg, "table t x", "table T:1 N:N5", "table ABCDEFGHIJK A:L", "table 1 A:L", "table U a:L", "table U A:N0", "table U A:N16", "table U A:C255", "table U A:N-1", "table U A:N-99999999999999999999", "table U :L,A:L,A:L", "drop t")
-	refused(t, s, api.ErrSyntax, "table T A", "table T A:", "table T A:X", "table T A:n5", "table T A:N", "table T A:N?", "table T A:N05", "table T A:N+5", "table T A:N-0", "table T A:N5x", "table T A:N5??", "table T A:L1", "table T A:D8", "table T A:M8", "table T A:L,", "table T ,A:L", "table T A:N9223372036854775808", "table T A:B:L", "table T A:L B")
+	refused(t, s, api.ErrArg, "table t x", "table T:1 N:N5", "table ABCDEFGHIJK A:L", "table 1 A:L", "table U a:L", "table U A:N0", "table U A:N16", "table U A:C255", "table U A:N-1", "table U A:N-99999999999999999999", "table U n:N5", "table U A.B:L,A:L,A:L", "table U 1:N99", "table U ABCDEFGHIJK:L", "table U _:L", "drop t", "table t :L")
+	refused(t, s, api.ErrSyntax, "table T A", "table T A:", "table T A:X", "table T A:n5", "table T A:N", "table T A:N?", "table T A:N05", "table T A:N+5", "table T A:N-0", "table T A:N5x", "table T A:N5??", "table T A:L1", "table T A:D8", "table T A:M8", "table T A:L,", "table T ,A:L", "table T A:N9223372036854775808", "table T A:B:L", "table T A:L B", "table U :N5", "table U :L", "table U A:L,:L", "table U :L,A:L,A:L", "table U n:L,:C3?", "table U :M,A:N99", "table U :", "table U ,", "table T :L")
 	refused(t, s, api.ErrTwice, "table T A:L", "table T A:N99", "table U A:L,A:N5")
 	many := "table U "
 	for i := range 17 {
