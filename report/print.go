@@ -22,7 +22,7 @@ type printer struct {
 	pages         [][]string
 	page          []string
 	begun         bool // the page has a line that is no head of it
-	closed        bool // no line fits to the page any more
+	headed        bool // the page has its heads
 	first         int  // a record, or 0
 	next, last    int
 	total         *tally
@@ -51,9 +51,18 @@ func (p *printer) free() int {
 
 // heads puts the heads of the page.
 func (p *printer) heads() {
+	p.headed = true
 	for _, b := range p.of(pageHead, 0) {
 		p.page = append(p.page, p.line(b, p.next, p.total))
 	}
+}
+
+// fits tells whether lines fit to the page, behind its heads. Titles do not wait for these, so that they may be missing on a page that has begun.
+func (p *printer) fits(lines int) bool {
+	if !p.headed {
+		lines += len(p.of(pageHead, 0))
+	}
+	return p.free() >= lines
 }
 
 // turn ends the page.
@@ -65,18 +74,18 @@ func (p *printer) turn() {
 		p.page = append(p.page, p.line(b, p.last, p.total))
 	}
 	p.pages = append(p.pages, p.page)
-	p.page, p.begun, p.closed = nil, false, false
+	p.page, p.begun, p.headed = nil, false, false
 }
 
-// room makes room for a line.
+// room makes room for a line, behind the heads of its page.
 func (p *printer) room() {
-	if p.begun && (p.closed || p.free() < 1) {
+	if p.begun && !p.fits(1) {
 		p.turn()
 	}
-	if !p.begun {
-		p.begun = true
+	if !p.headed {
 		p.heads()
 	}
+	p.begun = true
 }
 
 // put puts a line, which is made when it is known on which page it stands.
@@ -85,24 +94,15 @@ func (p *printer) put(text func() string) {
 	p.page = append(p.page, text())
 }
 
-// titles puts the titles, and the heads of the first page behind them.
+// titles puts the titles, which stand before the heads of their page.
 func (p *printer) titles() {
-	l := p.of(titleBand, 0)
-	if len(l) == 0 {
-		return
+	for _, b := range p.of(titleBand, 0) {
+		if p.free() < 1 {
+			p.turn()
+		}
+		p.page = append(p.page, p.line(b, p.first, p.total))
+		p.begun = true
 	}
-	p.begun = true
-	for _, b := range l {
-		p.put(func() string { return p.line(b, p.first, p.total) })
-	}
-	if len(p.pages) > 0 {
-		return
-	}
-	if len(p.of(pageHead, 0)) > p.free() {
-		p.closed = true
-		return
-	}
-	p.heads()
 }
 
 // feet puts the feet of groups from one on, the last one first.
@@ -127,7 +127,7 @@ func (p *printer) begin(from int) {
 	if len(p.of(detailBand, 0)) > 0 {
 		lines++
 	}
-	if p.begun && p.free() < lines {
+	if p.begun && !p.fits(lines) {
 		p.turn()
 	}
 	for g := from; g < len(p.groups); g++ {

@@ -108,10 +108,10 @@ func TestPrint(t *testing.T) {
 		{three, 9, g, []api.Band{band(2, 0, "'<'", "row", "s_n", "c"), band(4, 0, "'>'", "row", "s_n", "c"), detail}, "< 0 0 a,a,b,> 2 5 b,< 0 0 d,d,> 1 7 d,.,."},
 		{three, 12, []string{"g", "n"}, []api.Band{band(2, 0, "'G'", "g"), band(2, 1, "'N'", "n"), band(4, 0, "'g'", "g"), band(4, 1, "'n'", "n"), detail}, "G 1,N 5,a,n 5,N,b,n,g 1,G 2,N 7,d,n 7 | g 2,.,.,.,.,.,.,.,.,.,.,."},
 		{three, 4, nil, []api.Band{band(0, 0, "'T'", "c", "row", "page"), head, foot, detail}, "T a 0 1,H 1 0 a,a,F 1 1 a | H 2 1 b,b,d,F 2 3 d"},
-		{three, 3, nil, []api.Band{band(0, 0, "'T'"), head, foot, detail}, "T,H 1 0 a,F 1 0 | H 2 0 a,a,F 2 1 a | H 3 1 b,b,F 3 2 b | H 4 2 d,d,F 4 3 d"},
-		{numbers(), 4, nil, []api.Band{band(0, 0, "'T'", "recno()"), head}, "T 0,H 1 0,.,."},
+		{three, 3, nil, []api.Band{band(0, 0, "'T'"), head, foot, detail}, "T,.,F 1 0 | H 2 0 a,a,F 2 1 a | H 3 1 b,b,F 3 2 b | H 4 2 d,d,F 4 3 d"},
+		{numbers(), 4, nil, []api.Band{band(0, 0, "'T'", "recno()"), head}, "T 0,.,.,."},
 		{three, 3, nil, []api.Band{band(0, 0, "'T'"), band(0, 0, "'U'"), head, foot, band(6, 0, "'S'")}, "T,U,F 1 3 d | H 2 3,S,F 2 3 d"},
-		{three, 3, nil, []api.Band{band(0, 0, "'T'"), band(0, 0, "'U'"), band(0, 0, "'V'"), head, foot}, "T,U,F 1 0 | H 2 0 a,V,F 2 3 d"},
+		{three, 3, nil, []api.Band{band(0, 0, "'T'"), band(0, 0, "'U'"), band(0, 0, "'V'"), head, foot}, "T,U,F 1 0 | V,.,F 2 3 d"},
 		// A group head does not stand alone at the end of a page.
 		{three, 4, g, []api.Band{band(2, 0, "'<'", "g"), detail}, "< 1,a,b,. | < 2,d,.,."},
 		{three, 4, g, []api.Band{band(2, 0, "'<'", "g")}, "< 1,< 2,.,."},
@@ -125,6 +125,49 @@ func TestPrint(t *testing.T) {
 			t.Errorf("case %d: %s, want %s", i, got, c.want)
 		}
 	}
+}
+
+// The heads of a page are made when its first line is put that is neither one of them nor a title: behind the titles.
+func TestTitles(t *testing.T) {
+	two := numbers([2]int{1, 5}, [2]int{2, 7})
+	titles := func(s string) []api.Band {
+		var l []api.Band
+		for i := range len(s) {
+			l = append(l, band(0, 0, "'"+s[i:i+1]+"'"))
+		}
+		return l
+	}
+	g := []string{"g"}
+	head, foot, detail, group := band(1, 0, "'H'", "page", "row", "c"), band(5, 0, "'F'", "row", "c"), band(3, 0, "c"), band(2, 0, "'<'", "g")
+	for i, c := range []struct {
+		t      api.Table
+		length int
+		groups []string
+		titles string
+		l      []api.Band
+		want   string
+	}{
+		{numbers(), 3, nil, "T", nil, "T,.,."}, {numbers(), 3, nil, "T", []api.Band{head, foot}, "T,.,F 0"}, {two, 3, nil, "T", []api.Band{head, foot}, "T,.,F 2 b"}, {numbers(), 3, nil, "", []api.Band{head, foot}, "H 1 0,.,F 0"},
+		{numbers(), 3, nil, "T", []api.Band{head, band(6, 0, "'S'")}, "T,H 1 0,S"}, {numbers(), 3, nil, "TU", []api.Band{head, band(6, 0, "'S'")}, "T,U,. | H 2 0,S,."}, {numbers(), 3, nil, "TUVW", []api.Band{head, band(6, 0, "'S'")}, "T,U,V | W,H 2 0,S"},
+		{two, 3, nil, "T", []api.Band{head, detail}, "T,H 1 0 a,a | H 2 1 b,b,."}, {two, 3, nil, "TU", []api.Band{head, detail}, "T,U,. | H 2 0 a,a,b"}, {two, 3, nil, "TUV", []api.Band{head, detail}, "T,U,V | H 2 0 a,a,b"}, {two, 3, nil, "TUVW", []api.Band{head, detail}, "T,U,V | W,H 2 0 a,a | H 3 1 b,b,."}, {two, 3, nil, "TUVWX", []api.Band{head, detail}, "T,U,V | W,X,. | H 3 0 a,a,b"},
+		{two, 3, nil, "TUV", []api.Band{foot, detail}, "T,U,F 0 | V,a,F 1 a | b,.,F 2 b"}, {two, 3, nil, "TU", []api.Band{detail}, "T,U,a | b,.,."}, {two, 4, nil, "T", []api.Band{head, band(1, 0, "'K'"), detail}, "T,H 1 0 a,K,a | H 2 1 b,K,b,."}, {two, 4, nil, "TU", []api.Band{head, band(1, 0, "'K'"), detail}, "T,U,.,. | H 2 0 a,K,a,b"},
+		// The heads of groups go to the next page with the line that does not fit behind them, or by themselves.
+		{two, 4, g, "T", []api.Band{head, group, detail}, "T,H 1 0 a,< 1,a | H 2 1 b,< 2,b,."}, {two, 4, g, "TU", []api.Band{head, group, detail}, "T,U,.,. | H 2 0 a,< 1,a,. | H 3 1 b,< 2,b,."}, {two, 4, g, "TU", []api.Band{head, group}, "T,U,H 1 0 a,< 1 | H 2 1 b,< 2,.,."}, {two, 4, g, "TUV", []api.Band{head, group}, "T,U,V,. | H 2 0 a,< 1,< 2,."},
+		{two, 3, g, "T", []api.Band{head, group, band(2, 0, "'='"), band(2, 0, "'*'"), detail}, "T,.,. | H 2 0 a,< 1,= | H 3 0 a,*,a | H 4 1 b,< 2,= | H 5 1 b,*,b"},
+	} {
+		if got := pages(t, c.t, c.length, c.groups, append(titles(c.titles), c.l...)...); got != c.want {
+			t.Errorf("case %d: %s, want %s", i, got, c.want)
+		}
+	}
+}
+
+// firsts are the first bytes of lines; dots for those without one.
+func firsts(l []string) string {
+	out := ""
+	for _, s := range l {
+		out += (s + ".")[:1]
+	}
+	return out
 }
 
 // Without groups and with one detail band each record has one line; sums of a group's feet make that of the summary.
@@ -150,7 +193,8 @@ func TestAnyReport(t *testing.T) {
 		if r.Intn(2) == 0 {
 			bands = append(bands, band(1, 0, "'H'"), band(5, 0, "'F'"))
 		}
-		if r.Intn(2) == 0 {
+		heads := len(bands) > 4
+		for range r.Intn(6) {
 			bands = append(bands, band(0, 0, "'T'"))
 		}
 		p, e := report.Print(tab, 40, length, []string{"g"}, bands)
@@ -161,6 +205,9 @@ func TestAnyReport(t *testing.T) {
 		for _, page := range p {
 			if len(page) != length {
 				t.Fatal("length")
+			}
+			if lines := strings.TrimLeft(firsts(page), "T"); heads && strings.Trim(lines, ".F") != "" && (lines[0] != 'H' || strings.ContainsAny(lines[1:], "HT")) {
+				t.Fatal("heads", seed, page)
 			}
 			for i, line := range page {
 				f := strings.Fields(line)
