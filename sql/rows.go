@@ -95,10 +95,11 @@ func (p *picker) prepare() api.Errno {
 	} else {
 		p.bindItems()
 	}
-	having := binder{err: p.err}
-	having.check(p.having, p.names)
-	if having.err != api.OK {
-		return having.err
+	for _, x := range p.having {
+		p.check(x, p.names, nil)
+	}
+	if p.err != api.OK {
+		return p.err
 	}
 	for _, t := range p.tables {
 		if t.Page != p.tables[0].Page {
@@ -108,15 +109,23 @@ func (p *picker) prepare() api.Errno {
 	return api.OK
 }
 
-// check tells whether all names in HAVING are those of columns.
-func (b *binder) check(l []api.Expr, names []string) {
-	for _, x := range l {
-		used, _ := tree.Names(x)
-		for _, name := range used {
-			if !slices.Contains(names, name) {
-				b.fail(api.ErrNone)
-			}
+// check tells whether all names in HAVING are those of columns; one behind an alias is none: ErrNone.
+func (b *binder) check(x api.Expr, columns, params []string) {
+	switch x.Op {
+	case api.XName:
+		if !slices.Contains(columns, x.S) && !slices.Contains(params, x.S) {
+			b.fail(api.ErrNone)
 		}
+	case api.XAlias:
+		if x.L[0].Op == api.XName {
+			b.fail(api.ErrNone)
+		}
+		return // no name; it dies when it is evaluated
+	case api.XBlock:
+		params = slices.Concat(params, x.P)
+	}
+	for _, part := range x.L {
+		b.check(part, columns, params)
 	}
 }
 
