@@ -230,16 +230,20 @@ func (r *Run) Invoke(proc int, args []*Variable) (Value, error) {
 	return r.Exec(f)
 }
 
-// Print adds a line.
+// Print adds a line, which is a text like others: DieRange.
 func (r *Run) Print(l []Value) error {
 	var words []string
 	for _, v := range l {
 		words = append(words, v.Text())
 	}
+	line := strings.Join(words, " ")
+	if len(line) > api.MaxText {
+		return Death{api.DieRange}
+	}
 	if len(r.lines) >= api.MaxItems {
 		return ErrTired
 	}
-	r.lines = append(r.lines, strings.Join(words, " "))
+	r.lines = append(r.lines, line)
 	return nil
 }
 

@@ -190,6 +190,22 @@ func TestTired(t *testing.T) {
 	}
 }
 
+// A line is a text: it has at most 2048 bytes.
+func TestLongLines(t *testing.T) {
+	a := func(n int) string { return strings.Repeat("a", n) }
+	check(t, [][2]string{
+		{"s = replicate('a', 2048) / ? s / ? s", a(2048) + "/" + a(2048)}, {"s = replicate('a', 2048) / ? 1 / ? s, ''", "1/died 3"}, {"s = replicate('a', 2044) / ? s, .null. / ? s + '', {}", a(2044) + " NIL/died 3"}, {"s = replicate('a', 2045) / ? s, .null.", "died 3"},
+		{"s = replicate('a', 1023) / ? s, s, '' / ? s, s, '', ''", a(1023) + " " + a(1023) + " /died 3"}, {"s = replicate('a', 2047) / begin sequence / ? 1 / ? s, 1 / ? 2 / recover using e / ? e / end / ? s, ''", "1/3/" + a(2047) + " "},
+		{"s = replicate('a', 2048) / ? s, f() / function f / ? 'f' / return 1", "f/died 3"}, {"s = replicate('a', 2048) / ? s, 1 % 0", "died 2"}, {"s = replicate('a', 2040) / ? s, {|| 1}, 3 / ? s, array(12)", a(2040) + " BLOCK 3/died 3"},
+	})
+	p, _, _ := tree.Parse(program("? 'main' / procedure p(k, l) / ? k, l"))
+	for n, want := range map[int]api.Outcome{2044: {Lines: []string{"main", a(2044) + " NIL"}, Value: "NIL"}, 2045: {Kind: api.Died, Why: api.DieRange, Lines: []string{"main"}}, 2048: {Kind: api.Died, Why: api.DieRange, Lines: []string{"main"}}} {
+		if o, _, e := run.Call(p, "P", []api.Value{text(a(n))}, nil, nil); !run.Same(o, want) || e != api.OK {
+			t.Errorf("Call with %d bytes: %d %d %d lines, error %d", n, o.Kind, o.Why, len(o.Lines), e)
+		}
+	}
+}
+
 func TestWorkAreas(t *testing.T) {
 	check(t, [][2]string{
 		{"? eof(), bof(), found(), reccount(), alias(), recno(), deleted()", ".T. .T. .F. 0  0 .F."},

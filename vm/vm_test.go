@@ -89,6 +89,7 @@ var samples = []string{
 	"begin sequence / ? 1 % 0 / recover using e / ? e / break 5 / end", "begin sequence / do p / recover using e / ? e / end / procedure p / for i = 1 to 2 / break i / next", "begin sequence / begin sequence / break 1 / recover using e / break e + 1 / end / recover using e / ? e / end / break", "? f() / function f / begin sequence / return 5 / end / return 6", "begin sequence / return 4 / end", "begin sequence / ? f() / recover using e / ? e / end / function f / return f()",
 	"use p alias a / use q / begin sequence / ? a->(f()) / end / ? alias() / ? a->(b->x) / function f / ? alias() / return 1 % 0", "use p alias _ / use q alias _0 / ? _->(age + _0->age) / _->age = 7 / ? _->age", "use p alias a / ? a->(f()) / ? alias() / function f / use / return 1", "use p / p->age = 7 / ? age / p->x = 1", "z->x = 1", "use p / go 3 / ? recno() / go top / skip / ? name / skip -9 / ? bof() / go bottom / ? age / go 'a'", "go 1 % 0", "skip", "seek x", "use p / skip .null.",
 	"use p / index on name tag n / seek 'b' / ? found(), name / seek {1}", "use p / m = 'age > lim' / lim = 15 / count to n for &m / ? n / set filter to &m / replace note with recno() + lim all / sum note to s / ? s / pack / ? reccount() / append blank / ? recno()", "use p / locate for age > 15 / ? recno() / continue / ? recno() / delete / set deleted on / continue / ? found(), eof() / zap / ? reccount()", "use q / use p / set relation to recno() into q / go 3 / ? q->x / set relation to / set order to / set exact on / ? 'ab' = 'a'", "set filter to x", "use nothing",
+	"s = replicate('a', 2044) / ? s, .null. / ? s + 'b', .null.", "s = replicate('a', 2047) / begin sequence / ? 1 / ? s, 1 / ? 2 / recover using e / ? e / end / ? s, ''",
 	"return {1, 2}", "return 5 / ? 1", "? {|| 1}, array(3), .t., {}", "f(1) / function f(a) / ? a", "do while .t. / enddo",
 }
 
@@ -271,6 +272,17 @@ func TestCall(t *testing.T) {
 	}{{"X", []api.Value{{N: 1}}, api.ErrArg}, {"X", nil, api.ErrNone}, {"", nil, api.ErrNone}, {"Q", nil, api.ErrFit}} {
 		if _, _, e := vm.Call(l, c.name, c.args, []string{"P"}, nil); e != c.e {
 			t.Errorf("Call %d: %d", i, e)
+		}
+	}
+}
+
+// A line is a text: it has at most 2048 bytes.
+func TestLongLines(t *testing.T) {
+	p, _, _ := tree.Parse(program("return / procedure p(k, l) / ? k, l"))
+	l, _ := code.Compile(p)
+	for n, want := range map[int]api.Outcome{2044: {Lines: []string{strings.Repeat("a", 2044) + " NIL"}, Value: "NIL"}, 2045: {Kind: api.Died, Why: api.DieRange}} {
+		if o, _, e := vm.Call(l, "P", []api.Value{text(strings.Repeat("a", n))}, nil, nil); !run.Same(o, want) || e != api.OK {
+			t.Errorf("Call with %d bytes: %d %d %d lines, error %d", n, o.Kind, o.Why, len(o.Lines), e)
 		}
 	}
 }
