@@ -339,7 +339,7 @@ func TestAnyQuery(t *testing.T) {
 			c.Recs = append(c.Recs, cities(r.Intn(3), pick("x", "y")).Recs...)
 		}
 		cond := func() string {
-			return pick("n > 2", "name = 'a'", "p->city = 1", "city = id", "n = recno()", "town >= 'y'", "c->id < 2", "2 <= n", "n = 'a'", "isnull(n)", ".t.")
+			return pick("n > 2", "name = 'a'", "p->city = 1", "city = id", "n = recno()", "town >= 'y'", "c->id < 2", "2 <= n", "n = 'a'", "isnull(n)", ".t.", "n", "p->n")
 		}
 		where := cond()
 		for range r.Intn(3) {
